@@ -36,8 +36,12 @@ func Bytes(c api.Conf) ([]byte, api.Errno) {
 	return b, api.OK
 }
 
-// Parse answers the way whose form b is, whether a page can bear it or not; ErrConf, if there is none.
+// Parse answers the way whose form b is; ErrConf, if there is none.
 func Parse(b []byte) (api.Conf, api.Errno) {
+	// What a page cannot bear no way's Bytes are, so that of what is parsed Bytes are always b again.
+	if len(b) > api.Payload {
+		return api.Conf{}, api.ErrConf
+	}
 	r := pack.Read(b)
 	c := api.Conf{Cap: int(r.U8())}
 	for range r.U8() {

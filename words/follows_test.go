@@ -3,6 +3,7 @@ package words_test
 import (
 	"fmt"
 	"slices"
+	"strings"
 	"testing"
 
 	"incipit/api"
@@ -55,7 +56,7 @@ func TestBackAndThere(t *testing.T) {
 	for range 6000 {
 		b := r.drawnForm()
 		c, err := words.Parse(b)
-		if err != api.OK || len(b) > api.Payload {
+		if err != api.OK {
 			continue
 		}
 		met++
@@ -66,6 +67,35 @@ func TestBackAndThere(t *testing.T) {
 	}
 	if met < 1000 {
 		t.Error("only so many are forms:", met)
+	}
+}
+
+// P14.3: forms of Payload bytes and of one less are parsed and told again; of one byte more, and of any more, there is no way, since its Bytes would be none.
+func TestBackAndThereAtPayload(t *testing.T) {
+	for _, folds := range [][]api.Fold{nil, capitals(), fold.Plain()} {
+		for n := 200; n <= 380; n++ {
+			form := plainForm(long(t, folds, n))
+			c, err := words.Parse(form)
+			back, backErr := words.Bytes(c)
+			if n > 240 {
+				if err != api.ErrConf || !isZero(c) {
+					t.Fatalf("Parse of a form of %d bytes is %q, %d", n, fmt.Sprint(c), int(err))
+				}
+			} else if err != api.OK || backErr != api.OK || !slices.Equal(back, form) {
+				t.Fatalf("Bytes of Parse of %d bytes has %d, %d, %d", n, len(back), int(err), int(backErr))
+			}
+		}
+	}
+	for _, letters := range []string{"a", "é"} {
+		for n := range 33 {
+			c := api.Conf{Cap: 12}
+			for i := range n {
+				c.Stops = append(c.Stops, strings.Repeat(letters, 11)+string(rune(0x400+i)))
+			}
+			wantForm(t, c)
+			thereAndBack(t, c)
+			wantRead(t, plainForm(c))
+		}
 	}
 }
 

@@ -113,14 +113,15 @@ func TestAnswersAreNotKeptTogether(t *testing.T) {
 		tokens, list := words.Tokens(c, text), words.Terms(c, text)
 		wantList, wantTerms := plainTokens(c, text), plainTerms(c, text)
 		form := plainForm(c)
-		parsed, err := words.Parse(form)
+		wantParsed, _ := plainParse(form)
+		parsed, _ := words.Parse(form)
 		out, _ := words.Bytes(c)
 		wantOut := bytes.Clone(out)
 		clear(text)
 		clear(form)
 		clear(c.Stops)
 		clear(c.Folds)
-		if !slices.Equal(tokens, wantList) || !slices.Equal(list, wantTerms) || !bytes.Equal(out, wantOut) || err != api.OK || !same(parsed, given) {
+		if !slices.Equal(tokens, wantList) || !slices.Equal(list, wantTerms) || !bytes.Equal(out, wantOut) || !same(parsed, wantParsed) {
 			t.Fatalf("an answer by %q was changed", fmt.Sprint(given))
 		}
 	}
